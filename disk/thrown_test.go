@@ -373,9 +373,9 @@ func (m mood) operationsOf(c *coin, n int) []step {
 func TestEachCrashOfThrownOperations(t *testing.T) {
 	c := coin(11)
 	noRoom := 0
-	for round := range 120 {
+	for round := range 90 {
 		m := mood{names: 3}
-		if round%3 == 0 {
+		if round%6 == 0 {
 			m = mood{names: 130, full: true}
 		}
 		script := m.operationsOf(&c, 8)
@@ -393,7 +393,7 @@ func TestEachCrashOfThrownOperations(t *testing.T) {
 			}
 		}
 	}
-	if noRoom < 300 {
+	if noRoom < 100 {
 		t.Errorf("the thrown operations find no room too seldom: %d", noRoom)
 	}
 }
